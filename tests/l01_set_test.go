@@ -164,10 +164,12 @@ func TestMembersAreNewMemory(t *testing.T) {
 	}
 }
 
-// spoil writes over a list and the spare room behind it.
-func spoil(l []int64) {
+// fill writes over a list and the spare room behind it.
+func fill[T any](l []T, value T) {
 	l = l[:cap(l)]
 	for k := range l {
-		l[k] = -77
+		l[k] = value
 	}
 }
+
+func spoil(l []int64) { fill(l, -77) }

@@ -391,15 +391,15 @@ func TestEveryShortTextAsAnOrder(t *testing.T) {
 	grow("")
 }
 
-// withSpareRoom gives a list that has room behind it, and all of that room.
-func withSpareRoom(l []int64) (list []int64, room []int64) {
-	room = make([]int64, len(l)+5)
-	for k := range room {
-		room[k] = -99
-	}
+// inRoom gives a list that has room behind it, and all of that room.
+func inRoom[T any](l []T, spare T) (list []T, room []T) {
+	room = make([]T, len(l)+5)
+	fill(room, spare)
 	copy(room, l)
 	return room[:len(l)], room
 }
+
+func withSpareRoom(l []int64) (list []int64, room []int64) { return inRoom(l, -99) }
 
 func TestOrdersHandedInStay(t *testing.T) {
 	lists := [][]int64{{}, {0}, {3, 3}, {3, 6, 4}, {1, 2, 4, 8, 16, 32, 64}}
