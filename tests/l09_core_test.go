@@ -77,7 +77,9 @@ func badByRule(c impl.Core, code []impl.Op, slots [][]int64) bool {
 		return len(c.Pile) < 1 || noBox
 	case 5:
 		return o.Number >= int64(len(slots)) || c.Reads[o.Number] == 100000 || noBox
-	case 6, 8:
+	case 6:
+		return len(c.Pile) < 1 || o.Number >= int64(len(slots))
+	case 8:
 		return len(c.Pile) < 1
 	}
 	return false
@@ -488,8 +490,8 @@ func TestInOfASlotThatIsNotThere(t *testing.T) {
 	}
 }
 
-// Of OcOut no slot is told, so it Says at each gate however many slots there
-// are.
+// Where a gate has no slot, it has no window either. A slot without items is
+// one.
 func TestOutAtEachGate(t *testing.T) {
 	for count := 1; count <= 4; count++ {
 		for gate := range int64(4) {
@@ -498,9 +500,73 @@ func TestOutAtEachGate(t *testing.T) {
 					c, want := midCore(), midCore()
 					c.Pile = slices.Concat(below, []int64{word})
 					want.At, want.Pile = 3, below
-					checkStep(t, c, codeAt(2, out(gate)), fourSlots()[:count], impl.Step{Core: want, Says: true, Gate: gate, Value: word})
+					for _, slots := range [][][]int64{fourSlots()[:count], make([][]int64, count)} {
+						if gate < int64(count) {
+							checkStep(t, c, codeAt(2, out(gate)), slots, impl.Step{Core: want, Says: true, Gate: gate, Value: word})
+						} else {
+							checkEndsWith(t, c, codeAt(2, out(gate)), slots, impl.CnBad)
+						}
+					}
 				}
 			}
+		}
+	}
+}
+
+// Slots that lie in the room behind those that are handed in are not there.
+func TestGatesWhoseSlotsAreSpare(t *testing.T) {
+	for count := 1; count <= 3; count++ {
+		for _, gate := range []int64{int64(count), 3} {
+			for _, o := range []impl.Op{in("m", gate), out(gate)} {
+				checkEndsWith(t, midCore(), codeAt(2, o), fourSlots()[:count:4], impl.CnBad)
+			}
+		}
+	}
+}
+
+// A gate whose slot is not there is as bad where something else is bad, too.
+func TestNoSlotAndSomethingElse(t *testing.T) {
+	full := midCore()
+	full.Pile, full.Boxes, full.Reads = slices.Repeat([]int64{8}, 60), manyBoxes(12), []int64{100000, 100000, 100000, 100000}
+	nothing := impl.NewCore()
+	nothing.At = 2
+	for count := 1; count <= 3; count++ {
+		for gate := int64(count); gate <= 3; gate++ {
+			for _, o := range []impl.Op{in("new", gate), out(gate)} {
+				checkEndsWith(t, full, codeAt(2, o), fourSlots()[:count], impl.CnBad)
+				checkEndsWith(t, nothing, codeAt(2, o), fourSlots()[:count], impl.CnBad)
+				checkEndsWith(t, full, append(codeAt(2, o), impl.Op{}), fourSlots()[:count], impl.CnBad)
+			}
+		}
+	}
+}
+
+// Only the step that names the gate is bad: a play of a gate that is not there
+// goes on until it comes there.
+func TestPlaysOfGatesThatAreNotThere(t *testing.T) {
+	for _, k := range []struct {
+		play  string
+		slots [][]int64
+		ticks int64
+		pile  []int64
+		code  int64
+	}{
+		{"out 2 1", [][]int64{{5, 3}}, 1, []int64{1}, impl.CnBad},
+		{"out 1 5", [][]int64{{}}, 1, []int64{5}, impl.CnBad},
+		{"out 0 5 out 1 6", [][]int64{{}}, 3, []int64{6}, impl.CnBad},
+		{"in x 3", fourSlots()[:3], 0, nil, impl.CnBad},
+		{"if 0 [ out 3 1 ] [ stop ]", [][]int64{{}}, 2, nil, impl.CnStop},
+		{"stop out 3 1", [][]int64{{}}, 0, nil, impl.CnStop},
+		{"out 3 / 1 0", [][]int64{{}}, 2, []int64{1, 0}, impl.CnFail},
+	} {
+		c, code, ticks := impl.NewCore(), impl.CodeOf(strings.Fields(k.play)), int64(-1)
+		for c.Code == impl.CnRuns && ticks < 100 {
+			ticks++
+			checkStepByRule(t, c, code, k.slots)
+			c = impl.Stepped(c, code, k.slots).Core
+		}
+		if ticks != k.ticks || c.Code != k.code || !slices.Equal(c.Pile, k.pile) {
+			t.Errorf("%s: in tick %d it is %v, want %d, the Pile %v and Code %d", k.play, ticks, c, k.ticks, k.pile, k.code)
 		}
 	}
 }
