@@ -8,8 +8,8 @@ import (
 	"loop.example/g00533/impl"
 )
 
-// A maker makes plays, Cores, codes and slots: of one seed the same ones each
-// time. What it makes is mostly right, and wrong now and then.
+// A maker makes plays, Cores, codes, slots and Halls: of one seed the same ones
+// each time. What it makes is mostly right, and wrong now and then.
 type maker struct{ *rand.Rand }
 
 func newMaker(seed int64) maker { return maker{rand.New(rand.NewSource(seed))} }
@@ -149,4 +149,25 @@ func (m maker) slots() [][]int64 {
 		slots[0] = m.words(41)
 	}
 	return slots
+}
+
+func (m maker) hall() impl.Hall {
+	h := impl.Hall{Slots: m.slots()}
+	lattices, others := knownLattices(), knownNoLattices()
+	h.Order, _ = impl.ReadOrder(lattices[m.Intn(len(lattices))].order)
+	if m.Intn(40) == 0 {
+		h.Order, _ = impl.ReadOrder(others[m.Intn(len(others))].order)
+	}
+	for range h.Slots {
+		h.Gates = append(h.Gates, int64(m.Intn(len(h.Order.Ups))))
+	}
+	switch m.Intn(80) {
+	case 0:
+		h.Gates = append(h.Gates, 0)
+	case 1:
+		h.Gates = h.Gates[:len(h.Gates)/2]
+	case 2:
+		h.Gates = []int64{m.number(-1, 6, int64(len(h.Order.Ups)))}
+	}
+	return h
 }
